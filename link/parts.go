@@ -65,22 +65,11 @@ func Authority(host string) (string, string, string) {
 	return user, host[:at], port
 }
 
-// mended: a link whose texts are mended, and empty where it has no such part: nothing is said by them there.
+// mended: a link whose texts are mended, those beside a false Has.. too: what is not read there may still be handed on.
 func mended(l api.Link) api.Link {
-	out := api.Link{Path: utf.Mend(l.Path), HasScheme: l.HasScheme, HasHost: l.HasHost, HasQuery: l.HasQuery, HasFrag: l.HasFrag}
-	if l.HasScheme {
-		out.Scheme = utf.Mend(l.Scheme)
-	}
-	if l.HasHost {
-		out.Host = utf.Mend(l.Host)
-	}
-	if l.HasQuery {
-		out.Query = utf.Mend(l.Query)
-	}
-	if l.HasFrag {
-		out.Frag = utf.Mend(l.Frag)
-	}
-	return out
+	l.Scheme, l.Host, l.Path = utf.Mend(l.Scheme), utf.Mend(l.Host), utf.Mend(l.Path)
+	l.Query, l.Frag = utf.Mend(l.Query), utf.Mend(l.Frag)
+	return l
 }
 
 // slashAt: where the first / of a text stands; its length, if it has none.

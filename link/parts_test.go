@@ -177,17 +177,10 @@ func parted(l api.Link) string {
 	return l.Scheme + "|" + l.Host + "|" + l.Path + "|" + l.Query + "|" + l.Frag
 }
 
-// mend: a link that is mended, with nothing where it has no such part.
+// mend: a link that is mended, each text of it, whatever its Has.. says.
 func mend(l api.Link) api.Link {
-	out := api.Link{Path: utf.Mend(l.Path), HasScheme: l.HasScheme, HasHost: l.HasHost, HasQuery: l.HasQuery, HasFrag: l.HasFrag}
-	for _, p := range []struct {
-		has bool
-		to  *string
-		s   string
-	}{{l.HasScheme, &out.Scheme, l.Scheme}, {l.HasHost, &out.Host, l.Host}, {l.HasQuery, &out.Query, l.Query}, {l.HasFrag, &out.Frag, l.Frag}} {
-		if p.has {
-			*p.to = utf.Mend(p.s)
-		}
+	for _, text := range []*string{&l.Scheme, &l.Host, &l.Path, &l.Query, &l.Frag} {
+		*text = utf.Mend(*text)
 	}
-	return out
+	return l
 }

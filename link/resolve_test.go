@@ -98,11 +98,30 @@ func oddLinks() []api.Link {
 	return out
 }
 
-// P12.7, P12.14, P12.17: each of these with each, against RFC 3986's own words; and Resolve of Relative is what was asked for.
-func TestResolveRelativeInAllOrders(t *testing.T) {
-	links := oddLinks()
-	for _, base := range links {
-		for _, ref := range links {
+// besideFalse: links with texts of their own (told apart by mark) in every part, there or not, beside such as have nothing there.
+func besideFalse(mark string) []api.Link {
+	var out []api.Link
+	for ways := range 81 {
+		text := func(nth int, s string) (string, bool) {
+			way := ways / nth % 3
+			return []string{"", s + mark, s + mark}[way], way == 2
+		}
+		for _, path := range []string{"", "/", "/b/c", "c", "b/../c"} {
+			l := api.Link{Path: path}
+			l.Scheme, l.HasScheme = text(1, "s")
+			l.Host, l.HasHost = text(3, "h")
+			l.Query, l.HasQuery = text(9, "q")
+			l.Frag, l.HasFrag = text(27, "f")
+			out = append(out, l)
+		}
+	}
+	return out
+}
+
+// compareResolved holds Resolve and Relative of each base with each reference against RFC 3986's own words; and Resolve of Relative is what was asked for.
+func compareResolved(t *testing.T, bases, refs []api.Link) {
+	for _, base := range bases {
+		for _, ref := range refs {
 			whole := link.Resolve(base, ref)
 			if want := modelResolve(base, ref); whole != want {
 				t.Fatalf("Resolve(%+v, %+v): %+v; want %+v", base, ref, whole, want)
@@ -114,6 +133,67 @@ func TestResolveRelativeInAllOrders(t *testing.T) {
 			if whole == ref && link.Resolve(base, r) != ref {
 				t.Fatalf("Relative(%+v, %+v): %+v, which is %+v", base, ref, r, link.Resolve(base, r))
 			}
+		}
+	}
+}
+
+// P12.7, P12.14, P12.17: each of these with each.
+func TestResolveRelativeInAllOrders(t *testing.T) {
+	links := oddLinks()
+	compareResolved(t, links, links)
+}
+
+// P12.7, P12.14, P12.17: texts beside a false Has.. in every part of a base, of a ref and of a to: of other links, and of the same.
+func TestResolveRelativeBesideFalse(t *testing.T) {
+	bases := besideFalse("1")
+	compareResolved(t, bases, bases)
+	compareResolved(t, bases, besideFalse("2"))
+}
+
+// P12.7: each part is handed on with its Has.., by hand; whether it is there is told by its Has.. alone.
+func TestResolveBesideFalse(t *testing.T) {
+	base := api.Link{Scheme: "s", Host: "h", Path: "/p/q", Query: "q", Frag: "f"}
+	ref := api.Link{Scheme: "S", Host: "H", Query: "Q", Frag: "F"}
+	with := func(change func(l *api.Link)) api.Link {
+		l := ref
+		change(&l)
+		return l
+	}
+	for _, c := range []struct{ base, ref, want api.Link }{
+		{base, ref, api.Link{Scheme: "s", Host: "h", Path: "/p/q", Query: "q", Frag: "F"}},
+		{base, with(func(l *api.Link) { l.HasScheme = true }), api.Link{Scheme: "S", HasScheme: true, Host: "H", Query: "Q", Frag: "F"}},
+		{base, with(func(l *api.Link) { l.HasHost = true }), api.Link{Scheme: "s", Host: "H", HasHost: true, Query: "Q", Frag: "F"}},
+		{base, with(func(l *api.Link) { l.HasQuery = true }), api.Link{Scheme: "s", Host: "h", Path: "/p/q", Query: "Q", HasQuery: true, Frag: "F"}},
+		{base, with(func(l *api.Link) { l.HasFrag = true }), api.Link{Scheme: "s", Host: "h", Path: "/p/q", Query: "q", Frag: "F", HasFrag: true}},
+		{base, with(func(l *api.Link) { l.Path = "/x" }), api.Link{Scheme: "s", Host: "h", Path: "/x", Query: "Q", Frag: "F"}},
+		{base, with(func(l *api.Link) { l.Path = "x" }), api.Link{Scheme: "s", Host: "h", Path: "/p/x", Query: "Q", Frag: "F"}},
+		{api.Link{Host: "h"}, api.Link{Path: "x"}, api.Link{Host: "h", Path: "x"}}, // no host is there, so no / either
+		{api.Link{}, ref, api.Link{Frag: "F"}},
+		{ref, api.Link{}, api.Link{Scheme: "S", Host: "H", Query: "Q"}},
+	} {
+		if got := link.Resolve(c.base, c.ref); got != c.want {
+			t.Errorf("Resolve(%+v, %+v): %+v; want %+v", c.base, c.ref, got, c.want)
+		}
+	}
+}
+
+// P12.14: a text beside a false Has.. must come about, too; each way hands on those of its own parts.
+func TestRelativeBesideFalse(t *testing.T) {
+	base := api.Link{Scheme: "s", Host: "h", Path: "/p/q", Query: "q", Frag: "f"}
+	for _, c := range []struct{ base, to, want api.Link }{
+		{base, api.Link{Scheme: "s", Host: "h", Path: "/p/q", Query: "q", Frag: "F"}, api.Link{Frag: "F"}},
+		{base, api.Link{Scheme: "s", Host: "h", Path: "/p/q", Query: "q"}, api.Link{}},
+		{base, api.Link{Scheme: "s", Host: "h", Path: "/p/q", Query: "Q", HasQuery: true, Frag: "F"}, api.Link{Query: "Q", HasQuery: true, Frag: "F"}},
+		{base, api.Link{Scheme: "s", Host: "h", Path: "/p/q", Query: "Q", Frag: "F"}, api.Link{Path: "q", Query: "Q", Frag: "F"}},
+		{base, api.Link{Scheme: "s", Host: "h", Path: "/x/y", Query: "Q", Frag: "F"}, api.Link{Path: "/x/y", Query: "Q", Frag: "F"}},
+		{base, api.Link{Scheme: "s", Host: "H", HasHost: true, Query: "Q", Frag: "F"}, api.Link{Host: "H", HasHost: true, Query: "Q", Frag: "F"}},
+		{base, api.Link{Scheme: "s", Host: "H", Path: "/x", Query: "Q"}, api.Link{Scheme: "s", Host: "H", Path: "/x", Query: "Q"}},
+		{base, api.Link{Scheme: "S", Host: "h", Path: "/p/q", Query: "q"}, api.Link{Scheme: "S", Host: "h", Path: "/p/q", Query: "q"}},
+		{base, api.Link{}, api.Link{}},
+		{api.Link{}, base, base},
+	} {
+		if got := link.Relative(c.base, c.to); got != c.want {
+			t.Errorf("Relative(%+v, %+v): %+v; want %+v", c.base, c.to, got, c.want)
 		}
 	}
 }
@@ -139,7 +219,7 @@ func TestRelative(t *testing.T) {
 	}
 }
 
-// P12.7, P12.14: the parts are mended, each by itself; where a link has no such part, its text says nothing.
+// P12.7, P12.14: the parts are mended, each by itself, those beside a false Has.. too.
 func TestBrokenParts(t *testing.T) {
 	base := link.Split("http://a/b/c?q#f")
 	var odd []api.Link
