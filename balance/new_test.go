@@ -95,7 +95,7 @@ func TestNotMade(t *testing.T) {
 
 // P17.2, P17.3: behind End all is closed, and all that is asked for then is over; that goes ahead of a token that may not be.
 func TestOver(t *testing.T) {
-	for _, lead := range []string{"", "+b", "+b 'x +i", "+table 'x", "+pre", "+textarea '~", "+b +i +u -i", "-p", "+b +b +b"} {
+	for _, lead := range []string{"", "+b", "+b 'x +i", "+table 'x", "+pre", "+textarea '~", "+b +i +u -i", "-p", "+b +b +b", "+td"} {
 		for _, depth := range []int{1, 2, 512} {
 			b := made(t, depth)
 			m := &model{depth: depth}
